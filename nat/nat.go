@@ -1,31 +1,19 @@
 // Package nat is layer 1: see shared/doc/01-nat.md.
 package nat
 
-import "soroban/api"
-
-// must ends a call with an error if what it needs is not so.
-func must(so bool, e api.Errno) {
-	if !so {
-		panic(e)
-	}
-}
+import (
+	"soroban/api"
+	"soroban/guard"
+)
 
 // guarded does some work on numbers if they are valid, and returns the error with which the work has ended.
-func guarded(work func(), given []api.Nat) (e api.Errno) {
-	defer func() {
-		switch r := recover().(type) {
-		case nil:
-		case api.Errno:
-			e = r
-		default: // a call never panics, whatever has gone wrong in it
-			e = api.ErrLimit
+func guarded(work func(), given []api.Nat) api.Errno {
+	return guard.Call(func() {
+		for _, a := range given {
+			guard.Must(Valid(a), api.ErrArg)
 		}
-	}()
-	for _, a := range given {
-		must(Valid(a), api.ErrArg)
-	}
-	work()
-	return api.OK
+		work()
+	})
 }
 
 // one returns a number that is found from others.
@@ -107,7 +95,7 @@ func Add(a, b api.Nat) (api.Nat, api.Errno) {
 func Sub(a, b api.Nat) (api.Nat, api.Errno) {
 	return one(func() natural {
 		x, y := natural(a), natural(b)
-		must(x.compare(y) >= 0, api.ErrRange)
+		guard.Must(x.compare(y) >= 0, api.ErrRange)
 		return x.minus(y)
 	}, a, b)
 }
@@ -119,13 +107,16 @@ func Mul(a, b api.Nat) (api.Nat, api.Errno) {
 
 // Div returns the quotient and the rest of a by b.
 func Div(a, b api.Nat) (q, r api.Nat, e api.Errno) {
-	return quotient(byBlocks, a, b, divCut)
+	return two(func() (natural, natural) {
+		guard.Must(len(b) > 0, api.ErrDiv)
+		return natural(a).over(natural(b))
+	}, a, b)
 }
 
 // Pow returns a to the power of n.
 func Pow(a api.Nat, n int) (api.Nat, api.Errno) {
 	return one(func() natural {
-		must(n >= 0, api.ErrArg)
+		guard.Must(n >= 0, api.ErrArg)
 		return natural(a).limitedPower(n)
 	}, a)
 }
@@ -133,7 +124,7 @@ func Pow(a api.Nat, n int) (api.Nat, api.Errno) {
 // Root returns the n-th root of a, and what is left.
 func Root(a api.Nat, n int) (root, rest api.Nat, e api.Errno) {
 	return two(func() (natural, natural) {
-		must(n >= 1, api.ErrArg)
+		guard.Must(n >= 1, api.ErrArg)
 		return natural(a).rootAndRest(n)
 	}, a)
 }
@@ -147,8 +138,8 @@ func Gcd(a, b api.Nat) (api.Nat, api.Errno) {
 func Shl(a api.Nat, n int) (api.Nat, api.Errno) {
 	return one(func() natural {
 		x := natural(a)
-		must(n >= 0, api.ErrArg)
-		must(len(x) == 0 || n <= wordBits*api.MaxLimbs-x.bits(), api.ErrLimit)
+		guard.Must(n >= 0, api.ErrArg)
+		guard.Must(len(x) == 0 || n <= wordBits*api.MaxLimbs-x.bits(), api.ErrLimit)
 		return x.shiftedLeft(n)
 	}, a)
 }
@@ -156,7 +147,7 @@ func Shl(a api.Nat, n int) (api.Nat, api.Errno) {
 // Shr returns a divided by 2 to the power of n.
 func Shr(a api.Nat, n int) (api.Nat, api.Errno) {
 	return one(func() natural {
-		must(n >= 0, api.ErrArg)
+		guard.Must(n >= 0, api.ErrArg)
 		return natural(a).shiftedRight(n)
 	}, a)
 }
@@ -164,8 +155,8 @@ func Shr(a api.Nat, n int) (api.Nat, api.Errno) {
 // Parse returns the natural number whose digits are s.
 func Parse(s string) (api.Nat, api.Errno) {
 	return one(func() natural {
-		must(len(s) <= api.MaxText, api.ErrLimit)
-		must(isNumeral(s), api.ErrForm)
+		guard.Must(len(s) <= api.MaxText, api.ErrLimit)
+		guard.Must(isNumeral(s), api.ErrForm)
 		return fromDigits(s)
 	})
 }

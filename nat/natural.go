@@ -5,6 +5,7 @@ import (
 	"math/bits"
 
 	"soroban/api"
+	"soroban/guard"
 )
 
 // wordBits is how many binary digits an element has.
@@ -43,7 +44,7 @@ func (a natural) trimmed() natural {
 
 // limited returns a number that an api.Nat can be. Any other one ends the whole call, however deep in it the number is found.
 func (a natural) limited() natural {
-	must(len(a) <= api.MaxLimbs, api.ErrLimit)
+	guard.Must(len(a) <= api.MaxLimbs, api.ErrLimit)
 	return a
 }
 

@@ -4,6 +4,7 @@ import (
 	"math/bits"
 
 	"soroban/api"
+	"soroban/guard"
 )
 
 // limitedPower returns the n-th power of a; one that is too large ends the call before it is computed, since n may be any number.
@@ -15,7 +16,7 @@ func (a natural) limitedPower(n int) natural {
 		return a
 	}
 	// The power has more bits than n times those that a has behind the first one.
-	must(n <= (wordBits*api.MaxLimbs-1)/(a.bits()-1), api.ErrLimit)
+	guard.Must(n <= (wordBits*api.MaxLimbs-1)/(a.bits()-1), api.ErrLimit)
 	return a.power(n)
 }
 

@@ -1,6 +1,9 @@
 package nat
 
-import "soroban/api"
+import (
+	"soroban/api"
+	"soroban/guard"
+)
 
 // mulCut is from how many elements on Karatsuba's road is the faster one.
 const mulCut = 80
@@ -28,9 +31,9 @@ func multipliers() [2]multiplier {
 func product(road int, a, b api.Nat, cut int) (api.Nat, api.Errno) {
 	return one(func() natural {
 		way := multipliers()[road]
-		must(!way.cuts || goodCut(cut), api.ErrArg)
+		guard.Must(!way.cuts || goodCut(cut), api.ErrArg)
 		// A product has as many elements as both numbers, or one less: there is no need to find one that is too large anyway.
-		must(len(a) == 0 || len(b) == 0 || len(a)+len(b)-1 <= api.MaxLimbs, api.ErrLimit)
+		guard.Must(len(a) == 0 || len(b) == 0 || len(a)+len(b)-1 <= api.MaxLimbs, api.ErrLimit)
 		return way.find(natural(a), natural(b), cut)
 	}, a, b)
 }

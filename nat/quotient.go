@@ -4,9 +4,10 @@ import (
 	"math/bits"
 
 	"soroban/api"
+	"soroban/guard"
 )
 
-// divCut is from how many elements of the divisor on division by blocks is faster than by elements.
+// divCut is from how many elements of the divisor and of the quotient on division by blocks is faster than by elements.
 const divCut = 100
 
 // The roads to quotients.
@@ -34,14 +35,17 @@ func dividers() [3]divider {
 func quotient(road int, a, b api.Nat, cut int) (q, r api.Nat, e api.Errno) {
 	return two(func() (natural, natural) {
 		way := dividers()[road]
-		must(!way.cuts || goodCut(cut), api.ErrArg)
-		must(len(b) > 0, api.ErrDiv)
+		guard.Must(!way.cuts || goodCut(cut), api.ErrArg)
+		guard.Must(len(b) > 0, api.ErrDiv)
 		return way.find(natural(a), natural(b), cut)
 	}, a, b)
 }
 
 // over returns a quotient and its rest by the road that is the fastest one.
 func (a natural) over(b natural) (q, r natural) {
+	if len(a)-len(b) < divCut {
+		return a.overElements(b)
+	}
 	return a.overBlocks(b, divCut)
 }
 

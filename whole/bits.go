@@ -4,11 +4,15 @@ import (
 	"math/bits"
 
 	"soroban/api"
+	"soroban/guard"
 	"soroban/nat"
 )
 
-// allOnes is an element with all its bits.
-const allOnes = 1<<elementBits - 1
+// How many bits an element of a natural number has, and an element with all of them.
+const (
+	elementBits = 32
+	allOnes     = 1<<elementBits - 1
+)
 
 // strip is the lowest bits of an integer, as two's complement has them, by elements of 32.
 type strip []uint32
@@ -70,11 +74,11 @@ func (a integer) not() integer {
 func (a integer) shifted(n int) integer {
 	switch {
 	case n >= 0:
-		return signed(a.Neg, found(nat.Shl(a.Abs, n)))
+		return signed(a.Neg, guard.Found(nat.Shl(a.Abs, n)))
 	case a.Neg: // the opposite bits are those of a number that is not negative
 		return a.not().shifted(n).not()
 	}
-	return integer{Abs: found(nat.Shr(a.Abs, -max(n, -elementBits*api.MaxLimbs)))}
+	return integer{Abs: guard.Found(nat.Shr(a.Abs, -max(n, -elementBits*api.MaxLimbs)))}
 }
 
 // wrapped returns the integer with the lowest bits of a, behind which all are 0, or, with a sign, like the last of them.

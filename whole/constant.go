@@ -4,6 +4,7 @@ import (
 	"strings"
 
 	"soroban/api"
+	"soroban/guard"
 	"soroban/nat"
 )
 
@@ -102,7 +103,8 @@ func typeOf(c api.Constant) api.CType {
 			return t.kind
 		}
 	}
-	panic(api.ErrRange)
+	guard.FailAt(api.ErrRange, 0)
+	return api.CType{}
 }
 
 // mayBe reports whether the type of a constant may be one without sign, or, if unsigned is false, one with a sign.

@@ -2,6 +2,7 @@ package whole
 
 import (
 	"soroban/api"
+	"soroban/guard"
 	"soroban/nat"
 )
 
@@ -27,7 +28,7 @@ func (a integer) commonDivisor(b integer) (g, x, y integer) {
 // inverse returns the number from 0 to m - 1 whose product with a has the rest 1 by m, for a modulus m above 0.
 func (a integer) inverse(m integer) integer {
 	g, x, _ := a.commonDivisor(m)
-	must(compareNats(g.Abs, api.Nat{1}) == 0, api.ErrNone)
+	guard.Must(compareNats(g.Abs, api.Nat{1}) == 0, api.ErrNone)
 	return x
 }
 
@@ -49,13 +50,13 @@ func euclid(a, b api.Nat) (last, end row, turned bool) {
 
 // next returns the row behind a row and another one.
 func (r row) next(s row) row {
-	q, rest := foundTwo(nat.Div(r.rest, s.rest))
+	q, rest := guard.FoundTwo(nat.Div(r.rest, s.rest))
 	return row{rest, sumTimes(r.x, s.x, q), sumTimes(r.y, s.y, q)}
 }
 
 // sumTimes returns a + b q.
 func sumTimes(a, b, q api.Nat) api.Nat {
-	return found(nat.Add(a, found(nat.Mul(b, q))))
+	return guard.Found(nat.Add(a, guard.Found(nat.Mul(b, q))))
 }
 
 // The steps of Euclid's algorithm are tried on so many bits that sums of them fit in a word; the factors that come of it have at most half as many, and so they fit in an element.
@@ -71,7 +72,7 @@ func leadingBits(a, b api.Nat) (x, y uint64) {
 		return 0, 0
 	}
 	shift := size - leadingSize
-	return wordOf(found(nat.Shr(a, shift))), wordOf(found(nat.Shr(b, shift)))
+	return wordOf(guard.Found(nat.Shr(a, shift))), wordOf(guard.Found(nat.Shr(b, shift)))
 }
 
 // shortRow is a row of the algorithm on two numbers that fit in a word.
@@ -94,10 +95,10 @@ func sureSteps(a, b uint64) (first, second shortRow, odd bool) {
 // of returns the row that has these factors for the rests of two rows.
 func (s shortRow) of(last, end row) row {
 	x, y := nat.FromUint(s.x), nat.FromUint(s.y)
-	rest := integer{Abs: found(nat.Mul(last.rest, x))}.minus(integer{Abs: found(nat.Mul(end.rest, y))})
+	rest := integer{Abs: guard.Found(nat.Mul(last.rest, x))}.minus(integer{Abs: guard.Found(nat.Mul(end.rest, y))})
 	return row{
 		rest.Abs,
-		sumTimes(found(nat.Mul(last.x, x)), end.x, y),
-		sumTimes(found(nat.Mul(last.y, x)), end.y, y),
+		sumTimes(guard.Found(nat.Mul(last.x, x)), end.x, y),
+		sumTimes(guard.Found(nat.Mul(last.y, x)), end.y, y),
 	}
 }

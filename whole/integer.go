@@ -2,6 +2,7 @@ package whole
 
 import (
 	"soroban/api"
+	"soroban/guard"
 	"soroban/nat"
 )
 
@@ -13,22 +14,10 @@ func signed(negative bool, magnitude api.Nat) integer {
 	return integer{Neg: negative && len(magnitude) > 0, Abs: magnitude}
 }
 
-// found returns a natural number that package nat has found; an error instead of it ends the call.
-func found(n api.Nat, e api.Errno) api.Nat {
-	must(e == api.OK, e)
-	return n
-}
-
-// foundTwo returns two natural numbers that package nat has found; an error instead of them ends the call.
-func foundTwo(x, y api.Nat, e api.Errno) (api.Nat, api.Nat) {
-	must(e == api.OK, e)
-	return x, y
-}
-
 // compareNats returns -1, 0 or 1 for two valid natural numbers.
 func compareNats(a, b api.Nat) int {
 	c, e := nat.Cmp(a, b)
-	must(e == api.OK, e)
+	guard.Must(e == api.OK, e)
 	return c
 }
 
@@ -44,14 +33,14 @@ func trimmed(a api.Nat) api.Nat {
 // bitsOf returns how many bits a valid natural number has.
 func bitsOf(a api.Nat) int {
 	n, e := nat.Bits(a)
-	must(e == api.OK, e)
+	guard.Must(e == api.OK, e)
 	return n
 }
 
 // wordOf returns a natural number as a word; one that is too large for it ends the call with ErrRange.
 func wordOf(a api.Nat) uint64 {
 	n, e := nat.ToUint(a)
-	must(e == api.OK, e)
+	guard.Must(e == api.OK, e)
 	return n
 }
 
@@ -67,10 +56,10 @@ func fromInt(n int) integer {
 func (a integer) int() int {
 	n := wordOf(a.Abs)
 	if a.Neg {
-		must(n <= 1<<63, api.ErrRange)
+		guard.Must(n <= 1<<63, api.ErrRange)
 		return int(-n)
 	}
-	must(n < 1<<63, api.ErrRange)
+	guard.Must(n < 1<<63, api.ErrRange)
 	return int(n)
 }
 
@@ -103,11 +92,11 @@ func (a integer) opposite() integer {
 func (a integer) plus(b integer) integer {
 	switch {
 	case a.Neg == b.Neg:
-		return signed(a.Neg, found(nat.Add(a.Abs, b.Abs)))
+		return signed(a.Neg, guard.Found(nat.Add(a.Abs, b.Abs)))
 	case compareNats(a.Abs, b.Abs) < 0:
-		return signed(b.Neg, found(nat.Sub(b.Abs, a.Abs)))
+		return signed(b.Neg, guard.Found(nat.Sub(b.Abs, a.Abs)))
 	}
-	return signed(a.Neg, found(nat.Sub(a.Abs, b.Abs)))
+	return signed(a.Neg, guard.Found(nat.Sub(a.Abs, b.Abs)))
 }
 
 func (a integer) minus(b integer) integer {
@@ -115,5 +104,5 @@ func (a integer) minus(b integer) integer {
 }
 
 func (a integer) times(b integer) integer {
-	return signed(a.Neg != b.Neg, found(nat.Mul(a.Abs, b.Abs)))
+	return signed(a.Neg != b.Neg, guard.Found(nat.Mul(a.Abs, b.Abs)))
 }

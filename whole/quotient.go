@@ -2,6 +2,7 @@ package whole
 
 import (
 	"soroban/api"
+	"soroban/guard"
 	"soroban/nat"
 )
 
@@ -28,7 +29,7 @@ func divisions() [5]division {
 
 // overHalf reports whether the rest is more than half of the divisor, or half of it behind an odd quotient. (Twice the rest may be too large for package nat.)
 func (t truncated) overHalf() bool {
-	switch compareNats(t.rest, found(nat.Sub(t.divisor, t.rest))) {
+	switch compareNats(t.rest, guard.Found(nat.Sub(t.divisor, t.rest))) {
 	case 1:
 		return true
 	case 0:
@@ -39,12 +40,12 @@ func (t truncated) overHalf() bool {
 
 // over returns a quotient that is rounded in a way, and its rest, for a divisor other than 0.
 func (a integer) over(b integer, how int) (q, r integer) {
-	quotient, rest := foundTwo(nat.Div(a.Abs, b.Abs))
+	quotient, rest := guard.FoundTwo(nat.Div(a.Abs, b.Abs))
 	negative := a.Neg != b.Neg
 	t := truncated{a.Neg, b.Neg, quotient, rest, b.Abs}
 	if len(rest) == 0 || !divisions()[how].farther(t) {
 		return signed(negative, quotient), signed(a.Neg, rest)
 	}
-	quotient = found(nat.Add(quotient, api.Nat{1}))
-	return signed(negative, quotient), signed(!a.Neg, found(nat.Sub(b.Abs, rest)))
+	quotient = guard.Found(nat.Add(quotient, api.Nat{1}))
+	return signed(negative, quotient), signed(!a.Neg, guard.Found(nat.Sub(b.Abs, rest)))
 }

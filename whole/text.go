@@ -7,6 +7,7 @@ import (
 	"strings"
 
 	"soroban/api"
+	"soroban/guard"
 	"soroban/nat"
 )
 
@@ -53,7 +54,7 @@ func digitsFromEnd(a api.Nat, base int) iter.Seq[int] {
 	return func(yield func(int) bool) {
 		rest := a
 		for len(rest) > 0 {
-			quotient, low := foundTwo(nat.Div(rest, api.Nat{scale}))
+			quotient, low := guard.FoundTwo(nat.Div(rest, api.Nat{scale}))
 			part := wordOf(low)
 			rest = quotient
 			for i := 0; i < size && (part > 0 || len(rest) > 0); i++ {
@@ -103,7 +104,7 @@ func (r *reader) accept(some string) bool {
 // need ends the call if what has to stand at this place does not.
 func (r *reader) need(so bool) {
 	if !so {
-		panic(wrongByte(r.at))
+		guard.FailAt(api.ErrForm, r.at)
 	}
 }
 

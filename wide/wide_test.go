@@ -1,0 +1,128 @@
+package wide_test
+
+import (
+	"math"
+	"math/big"
+	"math/rand"
+	"slices"
+	"testing"
+
+	"soroban/api"
+	"soroban/guard"
+	"soroban/wide"
+)
+
+// oracle returns a number as package big has it.
+func oracle(w wide.Number) *big.Int {
+	x := new(big.Int)
+	for _, element := range slices.Backward(w) {
+		x.Lsh(x, 64).Or(x, new(big.Int).SetUint64(element))
+	}
+	return x
+}
+
+// number returns some number of n elements. Most have many elements at the bounds, where carries run far and estimates go wrong.
+func number(r *rand.Rand, n int) wide.Number {
+	edges := []uint64{0, 0, 1, 2, 1<<63 - 1, 1 << 63, 1<<63 + 1, math.MaxUint64 - 1, math.MaxUint64, math.MaxUint64}
+	kind := r.Intn(4)
+	w := make(wide.Number, n)
+	for i := range w {
+		switch kind {
+		case 0:
+			w[i] = r.Uint64()
+		case 1:
+			w[i] = edges[r.Intn(len(edges))]
+		case 2:
+			w[i] = []uint64{0, math.MaxUint64, r.Uint64()}[r.Intn(3)]
+		default:
+			w[i] = []uint64{0, math.MaxUint64}[r.Intn(20)/19]
+		}
+	}
+	if n > 0 && w[n-1] == 0 {
+		w[n-1] = edges[2+r.Intn(8)]
+	}
+	return w
+}
+
+// same checks a result.
+func same(t *testing.T, what string, got wide.Number, want *big.Int) {
+	t.Helper()
+	if len(got) > 0 && got[len(got)-1] == 0 || oracle(got).Cmp(want) != 0 {
+		t.Fatalf("%s: %v, not %v", what, got, want)
+	}
+}
+
+func TestOperations(t *testing.T) {
+	r := rand.New(rand.NewSource(1))
+	for range 3000 {
+		a, b := number(r, r.Intn(12)), number(r, r.Intn(8))
+		check(t, a, b)
+	}
+	for range 30 {
+		check(t, number(r, 500+r.Intn(600)), number(r, 1+r.Intn(1100)))
+	}
+}
+
+// check checks all operations on two numbers, and that they do not change them.
+func check(t *testing.T, a, b wide.Number) {
+	t.Helper()
+	wasA, wasB := slices.Clone(a), slices.Clone(b)
+	x, y := oracle(a), oracle(b)
+	same(t, "sum", a.Plus(b), new(big.Int).Add(x, y))
+	same(t, "product", a.Times(b), new(big.Int).Mul(x, y))
+	same(t, "divisor", a.CommonDivisor(b), new(big.Int).GCD(nil, nil, x, y))
+	if c := a.Compare(b); c != x.Cmp(y) {
+		t.Fatalf("Compare of %v and %v: %d", a, b, c)
+	}
+	if x.Cmp(y) >= 0 {
+		same(t, "difference", a.Minus(b), new(big.Int).Sub(x, y))
+	}
+	if len(b) > 0 {
+		quotient, rest := a.Over(b)
+		q, r := new(big.Int).QuoRem(x, y, new(big.Int))
+		same(t, "quotient", quotient, q)
+		same(t, "rest", rest, r)
+	}
+	if !slices.Equal(a, wasA) || !slices.Equal(b, wasB) {
+		t.Fatal("a number was changed")
+	}
+}
+
+func TestCompare(t *testing.T) {
+	list := []wide.Number{nil, {1}, {2}, {math.MaxUint64}, {0, 1}, {1, 1}, {0, 2}, {5, 2}, {0, 0, 1}}
+	for i, a := range list {
+		for k, b := range list {
+			if got := a.Compare(b); got != big.NewInt(int64(i)).Cmp(big.NewInt(int64(k))) {
+				t.Error(a, b, got)
+			}
+			check(t, a, b)
+		}
+	}
+}
+
+func TestNat(t *testing.T) {
+	for _, a := range []api.Nat{nil, {1}, {0, 1}, {5, 6, 7}, {0, 0, 0, 1 << 31}, slices.Repeat(api.Nat{math.MaxUint32}, 1023), slices.Repeat(api.Nat{math.MaxUint32}, 1024)} {
+		if got := wide.Of(a).Nat(); !slices.Equal(got, a) {
+			t.Errorf("%v became %v", a, got)
+		}
+	}
+	same(t, "Of", wide.Of(api.Nat{7, 8, 9}), oracle(wide.Number{8<<32 + 7, 9}))
+	for _, n := range []int{513, 2000} {
+		e := guard.Call(func() { number(rand.New(rand.NewSource(2)), n).Nat() })
+		if e != api.ErrLimit {
+			t.Error(n, e)
+		}
+	}
+}
+
+func TestCommonDivisorOfLongNumbers(t *testing.T) {
+	r := rand.New(rand.NewSource(3))
+	for _, n := range []int{100, 513, 600} {
+		d := number(r, n)
+		a, b := d.Times(number(r, 20)), d.Times(number(r, 600))
+		same(t, "divisor", a.CommonDivisor(b), new(big.Int).GCD(nil, nil, oracle(a), oracle(b)))
+		same(t, "divisor", b.CommonDivisor(a), new(big.Int).GCD(nil, nil, oracle(a), oracle(b)))
+		same(t, "divisor", a.CommonDivisor(nil), oracle(a))
+		same(t, "divisor", wide.Number{}.CommonDivisor(a), oracle(a))
+	}
+}
