@@ -79,51 +79,25 @@ func (a number) reciprocal() number {
 	return number{signed(a.Num.Neg, a.Den), a.Num.Abs}
 }
 
-// long is an integer of any length.
-type long struct {
-	negative  bool
-	magnitude wide.Number
-}
-
-// longProduct returns the product of an integer and a natural number.
-func longProduct(a api.Int, b api.Nat) long {
-	return long{a.Neg, wide.Of(a.Abs).Times(wide.Of(b))}
-}
-
-func (x long) plus(y long) long {
-	switch {
-	case x.negative == y.negative:
-		return long{x.negative, x.magnitude.Plus(y.magnitude)}
-	case x.magnitude.Compare(y.magnitude) < 0:
-		return long{y.negative, y.magnitude.Minus(x.magnitude)}
-	}
-	return long{x.negative, x.magnitude.Minus(y.magnitude)}
-}
-
-func (x long) sign() int {
-	switch {
-	case len(x.magnitude) == 0:
-		return 0
-	case x.negative:
-		return -1
-	}
-	return 1
+// timesNat returns the product of an integer and a natural number, which may be long.
+func timesNat(a api.Int, b api.Nat) wide.Integer {
+	return wide.IntegerOf(a).Times(wide.IntegerOf(api.Int{Abs: b}))
 }
 
 // compare returns the sign of the difference.
 func (a number) compare(b number) int {
-	return longProduct(a.Num, b.Den).plus(longProduct(b.opposite().Num, a.Den)).sign()
+	return timesNat(a.Num, b.Den).Compare(timesNat(b.Num, a.Den))
 }
 
 // plus returns a sum. It cancels early: only a divisor of what both denominators have in common can be left in the sum of the products (Henrici's rule). This sum may be long where the result is not.
 func (a number) plus(b number) number {
 	common := commonDivisor(a.Den, b.Den)
 	aPart, bPart := part(a.Den, common), part(b.Den, common)
-	total := longProduct(a.Num, bPart).plus(longProduct(b.Num, aPart))
-	_, rest := total.magnitude.Over(wide.Of(common))
+	total := timesNat(a.Num, bPart).Plus(timesNat(b.Num, aPart))
+	_, rest := total.Magnitude.Over(wide.Of(common))
 	divisor := commonDivisor(common, rest.Nat())
-	num, _ := total.magnitude.Over(wide.Of(divisor))
-	return number{signed(total.negative, num.Nat()), product(aPart, part(b.Den, divisor))}
+	num, _ := total.Magnitude.Over(wide.Of(divisor))
+	return number{signed(total.Negative, num.Nat()), product(aPart, part(b.Den, divisor))}
 }
 
 // times returns a product, of which all that can be cancelled is cancelled before anything is multiplied.

@@ -33,27 +33,6 @@ func (w Number) overWord(v uint64) (quotient, rest Number) {
 	return quotient.trimmed(), Number{r}.trimmed()
 }
 
-// shiftedLeft returns w times 2^n, for n below 64, as a new number with one element more, which may be 0.
-func (w Number) shiftedLeft(n int) Number {
-	long := make(Number, len(w)+1)
-	for i, x := range w {
-		long[i] |= x << n
-		long[i+1] = x >> (wordBits - n)
-	}
-	return long
-}
-
-// shiftedRight shifts w itself, for n below 64.
-func (w Number) shiftedRight(n int) Number {
-	for i := range w {
-		w[i] >>= n
-		if i+1 < len(w) {
-			w[i] |= w[i+1] << (wordBits - n)
-		}
-	}
-	return w.trimmed()
-}
-
 // addTimes adds v times x to as many elements of w itself as v has, and returns what does not fit there.
 func (w Number) addTimes(v Number, x uint64) uint64 {
 	w = w[:len(v)]

@@ -1,4 +1,4 @@
-// Package wide calculates with natural numbers of any length: a result may be short enough for package nat where something on the way to it is not.
+// Package wide calculates with natural numbers and integers of any length: a result may be short enough for package nat where something on the way to it is not.
 package wide
 
 import (

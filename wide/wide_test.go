@@ -126,3 +126,80 @@ func TestCommonDivisorOfLongNumbers(t *testing.T) {
 		same(t, "divisor", wide.Number{}.CommonDivisor(a), oracle(a))
 	}
 }
+
+func TestDigits(t *testing.T) {
+	r := rand.New(rand.NewSource(4))
+	list := []wide.Number{nil, {}, {1}, {1 << 63}, {math.MaxUint64}, {0, 1}, {0, 0, 1 << 63}, {0, 3, 5}}
+	for range 300 {
+		list = append(list, number(r, r.Intn(9)))
+	}
+	for _, a := range list {
+		was, x := slices.Clone(a), oracle(a)
+		if a.Bits() != x.BitLen() || a.Zeros() != int(x.TrailingZeroBits()) {
+			t.Fatalf("%v: %d bits, %d zeros", x, a.Bits(), a.Zeros())
+		}
+		for _, n := range []int{0, 1, 2, 31, 63, 64, 65, 127, 128, 129, 200, 640, 5000} {
+			same(t, "Doubled", a.Doubled(n), new(big.Int).Lsh(x, uint(n)))
+			same(t, "Halved", a.Halved(n), new(big.Int).Rsh(x, uint(n)))
+			if a.Bit(n) != (x.Bit(n) == 1) {
+				t.Fatalf("%v: bit %d is %v", x, n, a.Bit(n))
+			}
+		}
+		if !slices.Equal(a, was) {
+			t.Fatal("a number was changed")
+		}
+	}
+}
+
+// integers returns integers of both signs, 0 with both of them.
+func integers(r *rand.Rand) []wide.Integer {
+	var list []wide.Integer
+	magnitudes := []wide.Number{nil, {1}, {2}, {math.MaxUint64}, {0, 1}, {1, 1}}
+	for range 25 {
+		magnitudes = append(magnitudes, number(r, r.Intn(6)))
+	}
+	for _, magnitude := range magnitudes {
+		list = append(list, wide.Integer{Magnitude: magnitude}, wide.Integer{Negative: true, Magnitude: magnitude})
+	}
+	return list
+}
+
+// value returns an integer as package big has it.
+func value(x wide.Integer) *big.Int {
+	n := oracle(x.Magnitude)
+	if x.Negative {
+		n.Neg(n)
+	}
+	return n
+}
+
+func TestIntegers(t *testing.T) {
+	list := integers(rand.New(rand.NewSource(5)))
+	sameInteger := func(what string, got wide.Integer, want *big.Int) {
+		t.Helper()
+		if value(got).Cmp(want) != 0 || got.Sign() != want.Sign() {
+			t.Fatalf("%s: %v, not %v", what, got, want)
+		}
+	}
+	for _, a := range list {
+		x := value(a)
+		sameInteger("opposite", a.Opposite(), new(big.Int).Neg(x))
+		sameInteger("Doubled", a.Doubled(77), new(big.Int).Lsh(x, 77))
+		sameInteger("IntegerOf Int", wide.IntegerOf(a.Int()), x)
+		if n := a.Int(); n.Neg != (x.Sign() < 0) || !slices.Equal(n.Abs, a.Magnitude.Nat()) {
+			t.Fatalf("%v became %v", x, n)
+		}
+		for _, b := range list {
+			y := value(b)
+			sameInteger("sum", a.Plus(b), new(big.Int).Add(x, y))
+			sameInteger("product", a.Times(b), new(big.Int).Mul(x, y))
+			if got := a.Compare(b); got != x.Cmp(y) {
+				t.Fatalf("Compare of %v and %v: %d", x, y, got)
+			}
+		}
+	}
+	long := wide.Integer{Negative: true, Magnitude: wide.Number{1}.Doubled(64 * 512)}
+	if e := guard.Call(func() { long.Int() }); e != api.ErrLimit {
+		t.Error(e)
+	}
+}
