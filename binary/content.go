@@ -4,17 +4,18 @@ import (
 	"soroban/api"
 	"soroban/guard"
 	"soroban/nat"
+	"soroban/word"
 )
 
 // content is what a datum is, beside its format and its sign: its type tells the class.
 type content interface {
 	// fields returns what the fields of the datum have.
-	fields() (class int, coef word, exp int)
+	fields() (class int, coef word.Word, exp int)
 }
 
 // number is coef times 2 to the power of exp.
 type number struct {
-	coef word
+	coef word.Word
 	exp  int
 }
 
@@ -22,26 +23,26 @@ type infinity struct{}
 
 // quiet is a quiet NaN, signal a signaling one.
 type (
-	quiet  struct{ payload word }
-	signal struct{ payload word }
+	quiet  struct{ payload word.Word }
+	signal struct{ payload word.Word }
 )
 
-func (n number) fields() (class int, coef word, exp int)   { return api.ClFinite, n.coef, n.exp }
-func (n infinity) fields() (class int, coef word, exp int) { return api.ClInf, word{}, 0 }
-func (n quiet) fields() (class int, coef word, exp int)    { return api.ClQuiet, n.payload, 0 }
-func (n signal) fields() (class int, coef word, exp int)   { return api.ClSignal, n.payload, 0 }
+func (n number) fields() (class int, coef word.Word, exp int)   { return api.ClFinite, n.coef, n.exp }
+func (n infinity) fields() (class int, coef word.Word, exp int) { return api.ClInf, word.Word{}, 0 }
+func (n quiet) fields() (class int, coef word.Word, exp int)    { return api.ClQuiet, n.payload, 0 }
+func (n signal) fields() (class int, coef word.Word, exp int)   { return api.ClSignal, n.payload, 0 }
 
 // datum returns the datum with a sign and some content.
 func (x layout) datum(neg bool, c content) api.Datum {
 	class, coef, exp := c.fields()
-	return api.Datum{Fmt: x.format, Class: class, Neg: neg, Coef: coef.nat(), Exp: exp}
+	return api.Datum{Fmt: x.format, Class: class, Neg: neg, Coef: coef.Nat(), Exp: exp}
 }
 
 // contentOf returns the content of a datum of this format; if the datum is not valid, the call ends with ErrArg.
 func (x layout) contentOf(d api.Datum) content {
 	size, e := nat.Bits(d.Coef)
 	guard.Must(e == api.OK && size <= x.Digits, api.ErrArg)
-	coef, isPayload := wordOf(d.Coef), size <= x.Digits-2
+	coef, isPayload := word.Of(d.Coef), size <= x.Digits-2
 	switch {
 	case d.Class == api.ClFinite:
 		guard.Must(d.Exp == x.Low || size == x.Digits && d.Exp > x.Low && d.Exp <= x.High, api.ErrArg)
@@ -67,17 +68,17 @@ func (x layout) numberWith(coef api.Nat, exp int) content {
 	// The exponent may be any int: the sums with it come later.
 	guard.Must(exp >= x.Low-zeros && exp <= x.Emax+1-size, api.ErrRange)
 	own := max(exp+size-x.Digits, x.Low)
-	odd := wordOf(guard.Found(nat.Shr(coef, zeros)))
-	return number{odd.up(exp + zeros - own), own}
+	odd := word.Of(guard.Found(nat.Shr(coef, zeros)))
+	return number{odd.Up(exp + zeros - own), own}
 }
 
 // value returns the dyad that a number with a sign is.
 func (n number) value(neg bool) api.Dyad {
-	if n.coef == (word{}) {
+	if n.coef == (word.Word{}) {
 		return api.Dyad{}
 	}
-	zeros := n.coef.zeros()
-	return api.Dyad{Man: api.Int{Neg: neg, Abs: n.coef.down(zeros).nat()}, Exp: n.exp + zeros}
+	zeros := n.coef.Zeros()
+	return api.Dyad{Man: api.Int{Neg: neg, Abs: n.coef.Down(zeros).Nat()}, Exp: n.exp + zeros}
 }
 
 // split returns the parts of the bits of a datum with a sign and some content.
@@ -85,12 +86,12 @@ func (x layout) split(neg bool, c content) parts {
 	p := parts{negative: neg, field: x.lastField(), integer: true}
 	switch c := c.(type) {
 	case number:
-		if c.coef.size() < x.Digits {
+		if c.coef.Size() < x.Digits {
 			return parts{negative: neg, fraction: c.coef}
 		}
-		p.field, p.fraction = c.exp-x.Low+1, c.coef.minus(x.unit())
+		p.field, p.fraction = c.exp-x.Low+1, c.coef.Minus(x.unit())
 	case quiet:
-		p.fraction = c.payload.plus(x.quietBit())
+		p.fraction = c.payload.Plus(x.quietBit())
 	case signal:
 		p.fraction = c.payload
 	}
@@ -101,46 +102,46 @@ func (x layout) split(neg bool, c content) parts {
 func (x layout) meaning(p parts) content {
 	switch {
 	case p.field > 0 && !p.integer:
-		return signal{word{Lo: 1}}
+		return signal{word.Word{Lo: 1}}
 	case p.field == x.lastField():
 		return meaningOfLast(p.fraction, x.quietBit())
 	case p.integer: // a number of all digits, also where a field 0 promises less
-		return number{p.fraction.plus(x.unit()), x.Low + max(p.field, 1) - 1}
+		return number{p.fraction.Plus(x.unit()), x.Low + max(p.field, 1) - 1}
 	}
 	return number{p.fraction, x.Low}
 }
 
 // meaningOfLast returns what a fraction means behind the last exponent field.
-func meaningOfLast(fraction, quietBit word) content {
+func meaningOfLast(fraction, quietBit word.Word) content {
 	switch {
-	case fraction == word{}:
+	case fraction == word.Word{}:
 		return infinity{}
-	case fraction.compare(quietBit) >= 0:
-		return quiet{fraction.minus(quietBit)}
+	case fraction.Compare(quietBit) >= 0:
+		return quiet{fraction.Minus(quietBit)}
 	}
 	return signal{fraction}
 }
 
 // place returns the place of a datum without its sign; that of a NaN ends the call with ErrNone.
-func (x layout) place(c content) word {
+func (x layout) place(c content) word.Word {
 	switch c := c.(type) {
 	case number:
-		return scaled(c.exp-x.Low, x.fractionSize()).plus(c.coef)
+		return word.Scaled(c.exp-x.Low, x.fractionSize()).Plus(c.coef)
 	case infinity:
 		return x.placeOf(infinite)
 	}
 	guard.FailAt(api.ErrNone, 0)
-	return word{}
+	return word.Word{}
 }
 
 // at returns the content of the datum with a place that is not negative; if there is none, the call ends with ErrRange.
-func (x layout) at(place word) content {
+func (x layout) at(place word.Word) content {
 	end := x.placeOf(infinite)
-	guard.Must(place.compare(end) <= 0, api.ErrRange)
+	guard.Must(place.Compare(end) <= 0, api.ErrRange)
 	if place == end {
 		return infinity{}
 	}
 	// As many data as unit counts stand with each Exp, but twice as many with the least one.
-	exp := max(int(place.down(x.fractionSize()).Lo), 1) - 1
-	return number{place.minus(scaled(exp, x.fractionSize())), x.Low + exp}
+	exp := max(int(place.Down(x.fractionSize()).Lo), 1) - 1
+	return number{place.Minus(word.Scaled(exp, x.fractionSize())), x.Low + exp}
 }

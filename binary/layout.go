@@ -6,6 +6,7 @@ import (
 
 	"soroban/api"
 	"soroban/guard"
+	"soroban/word"
 )
 
 // formats are the binary formats, by their numbers.
@@ -34,7 +35,7 @@ type parts struct {
 	negative bool
 	field    int
 	integer  bool
-	fraction word
+	fraction word.Word
 }
 
 // fractionSize returns how many bits the fraction has.
@@ -58,39 +59,39 @@ func (x layout) showsInteger() bool {
 }
 
 // unit returns the least coefficient with all digits; in the bits of a datum it is the integer bit.
-func (x layout) unit() word {
-	return scaled(1, x.fractionSize())
+func (x layout) unit() word.Word {
+	return word.Scaled(1, x.fractionSize())
 }
 
 // quietBit returns the bit of the fraction that tells quiet NaNs from signaling ones.
-func (x layout) quietBit() word {
-	return scaled(1, x.fractionSize()-1)
+func (x layout) quietBit() word.Word {
+	return word.Scaled(1, x.fractionSize()-1)
 }
 
 // cut returns the parts of bits; if a bit is set that the format does not have, the call ends with ErrArg.
 func (x layout) cut(r api.Raw) parts {
-	w := word(r)
-	guard.Must(w.size() <= x.Width, api.ErrArg)
+	w := word.Word(r)
+	guard.Must(w.Size() <= x.Width, api.ErrArg)
 	p := parts{
-		negative: w.size() == x.Width,
-		field:    int(w.last(x.Width - 1).down(x.fieldAt()).Lo),
-		fraction: w.last(x.fractionSize()),
+		negative: w.Size() == x.Width,
+		field:    int(w.Last(x.Width - 1).Down(x.fieldAt()).Lo),
+		fraction: w.Last(x.fractionSize()),
 	}
 	p.integer = p.field != 0
 	if x.showsInteger() {
-		p.integer = w.last(x.fieldAt()) != p.fraction
+		p.integer = w.Last(x.fieldAt()) != p.fraction
 	}
 	return p
 }
 
 // joined returns the bits that have these parts.
 func (x layout) joined(p parts) api.Raw {
-	w := scaled(p.field, x.fieldAt()).plus(p.fraction)
+	w := word.Scaled(p.field, x.fieldAt()).Plus(p.fraction)
 	if p.integer && x.showsInteger() {
-		w = w.plus(x.unit())
+		w = w.Plus(x.unit())
 	}
 	if p.negative {
-		w = w.plus(scaled(1, x.Width-1))
+		w = w.Plus(word.Scaled(1, x.Width-1))
 	}
 	return api.Raw(w)
 }
@@ -106,18 +107,18 @@ const (
 )
 
 // places yields the places of the marks, which ascend.
-func (x layout) places() iter.Seq2[mark, word] {
-	return func(yield func(mark, word) bool) {
-		end := scaled(x.lastField(), x.fractionSize())
-		_ = yield(leastNumber, word{Lo: 1}) &&
+func (x layout) places() iter.Seq2[mark, word.Word] {
+	return func(yield func(mark, word.Word) bool) {
+		end := word.Scaled(x.lastField(), x.fractionSize())
+		_ = yield(leastNumber, word.Word{Lo: 1}) &&
 			yield(leastNormal, x.unit()) &&
-			yield(greatestNumber, end.minus(word{Lo: 1})) &&
+			yield(greatestNumber, end.Minus(word.Word{Lo: 1})) &&
 			yield(infinite, end)
 	}
 }
 
 // placeOf returns the place of a mark.
-func (x layout) placeOf(wanted mark) (place word) {
+func (x layout) placeOf(wanted mark) (place word.Word) {
 	for m, other := range x.places() {
 		if m == wanted {
 			place = other

@@ -33,6 +33,18 @@ func FoundTwo[T, U any](x T, y U, e api.Errno) (T, U) {
 	return x, y
 }
 
+// One does some work, and returns what it finds, or the error with which it has ended.
+func One[T any](work func() T) (x T, e api.Errno) {
+	e = Call(func() { x = work() })
+	return x, e
+}
+
+// Two is One for work that finds two things.
+func Two[T, U any](work func() (T, U)) (x T, y U, e api.Errno) {
+	e = Call(func() { x, y = work() })
+	return x, y, e
+}
+
 // Call does some work, and returns the error with which it has ended.
 func Call(work func()) api.Errno {
 	e, _ := CallAt(work)

@@ -49,6 +49,27 @@ func TestFoundTwo(t *testing.T) {
 	}
 }
 
+func TestOne(t *testing.T) {
+	if x, e := guard.One(func() int { return 5 }); x != 5 || e != api.OK {
+		t.Error(x, e)
+	}
+	if x, e := guard.One(func() string { return guard.Found("text", api.ErrForm) }); x != "" || e != api.ErrForm {
+		t.Error(x, e)
+	}
+	if x, e := guard.One(func() int { panic("anything") }); x != 0 || e != api.ErrLimit {
+		t.Error(x, e)
+	}
+}
+
+func TestTwo(t *testing.T) {
+	if x, y, e := guard.Two(func() (int, string) { return 5, "five" }); x != 5 || y != "five" || e != api.OK {
+		t.Error(x, y, e)
+	}
+	if x, y, e := guard.Two(func() (int, bool) { return 5, guard.Found(true, api.ErrDiv) }); x != 0 || y || e != api.ErrDiv {
+		t.Error(x, y, e)
+	}
+}
+
 func TestCallsWithinCalls(t *testing.T) {
 	e := guard.Call(func() {
 		if e := guard.Call(func() { guard.Must(false, api.ErrNone) }); e != api.ErrNone {
