@@ -61,14 +61,6 @@ func (x cut) rounded(bits, dir int) fraction {
 	return fraction{wide.Integer{Negative: x.man.Negative, Magnitude: stay}, x.exp + n}
 }
 
-// moved returns a number times 2 to the power of n, without what is less than 1, and whether this is something.
-func moved(w wide.Number, n int) (digits wide.Number, more bool) {
-	if n >= 0 {
-		return w.Doubled(n), false
-	}
-	return w.Halved(-n), w.Zeros() < -n
-}
-
 // over returns a quotient, cut behind more than so many bits, for a divisor other than 0.
 func (x fraction) over(y fraction, bits int) cut {
 	if x.isZero() {
@@ -76,7 +68,7 @@ func (x fraction) over(y fraction, bits int) cut {
 	}
 	dividend, divisor := x.man.Magnitude, y.man.Magnitude
 	n := divisor.Bits() + bits + 1 - dividend.Bits()
-	dividend, more := moved(dividend, n)
+	dividend, more := dividend.Moved(n)
 	quotient, rest := dividend.Over(divisor)
 	man := wide.Integer{Negative: x.man.Negative != y.man.Negative, Magnitude: quotient}
 	return cut{fraction{man, x.exp - y.exp - n}, more || len(rest) > 0}
@@ -97,7 +89,7 @@ func (x fraction) root(bits int) cut {
 	if (x.exp-n)%2 != 0 {
 		n++
 	}
-	digits, more := moved(digits, n)
+	digits, more := digits.Moved(n)
 	root, rest := guard.FoundTwo(nat.Root(digits.Nat(), 2))
 	man := wide.Integer{Magnitude: wide.Of(root)}
 	return cut{fraction{man, (x.exp - n) / 2}, more || len(rest) > 0}

@@ -42,6 +42,14 @@ func (w Number) Halved(n int) Number {
 	return slices.Clone(w[lost:]).shiftedRight(n % wordBits)
 }
 
+// Moved returns a number times 2^n, without what is less than 1, and whether this is something.
+func (w Number) Moved(n int) (moved Number, lost bool) {
+	if n >= 0 {
+		return w.Doubled(n), false
+	}
+	return w.Halved(-n), len(w) > 0 && w.Zeros() < -n
+}
+
 // shiftedLeft returns w times 2^n as a new number with one element at its end for what leaves the last one of w, which may be 0.
 func (w Number) shiftedLeft(n int) Number {
 	words, rest := n/wordBits, n%wordBits

@@ -115,3 +115,15 @@ func (w Number) CommonDivisor(v Number) Number {
 	}
 	return Of(guard.Found(nat.Gcd(w.Nat(), v.Nat())))
 }
+
+// Power returns a number to the power of n.
+func (w Number) Power(n int) Number {
+	power := Number{1}
+	for i := bits.Len(uint(n)) - 1; i >= 0; i-- {
+		power = power.Times(power)
+		if n>>i&1 == 1 {
+			power = power.Times(w)
+		}
+	}
+	return power
+}

@@ -144,11 +144,43 @@ func TestDigits(t *testing.T) {
 			if a.Bit(n) != (x.Bit(n) == 1) {
 				t.Fatalf("%v: bit %d is %v", x, n, a.Bit(n))
 			}
+			checkMoved(t, a, n)
+			checkMoved(t, a, -n)
 		}
 		if !slices.Equal(a, was) {
 			t.Fatal("a number was changed")
 		}
 	}
+}
+
+// checkMoved checks a number times 2^n, and whether something is lost.
+func checkMoved(t *testing.T, a wide.Number, n int) {
+	t.Helper()
+	x, scale := oracle(a), new(big.Int).Lsh(big.NewInt(1), uint(max(n, -n)))
+	want, rest := new(big.Int).Mul(x, scale), new(big.Int)
+	if n < 0 {
+		want.QuoRem(x, scale, rest)
+	}
+	moved, lost := a.Moved(n)
+	same(t, "Moved", moved, want)
+	if lost != (rest.Sign() > 0) {
+		t.Fatalf("Moved of %v by %d: %v", x, n, lost)
+	}
+}
+
+func TestPower(t *testing.T) {
+	r := rand.New(rand.NewSource(6))
+	for _, n := range []int{0, 1, 2, 3, 4, 5, 7, 8, 13, 100} {
+		for size := range 5 {
+			a := number(r, size)
+			was := slices.Clone(a)
+			same(t, "Power", a.Power(n), new(big.Int).Exp(oracle(a), big.NewInt(int64(n)), nil))
+			if !slices.Equal(a, was) {
+				t.Fatal("a number was changed")
+			}
+		}
+	}
+	same(t, "Power", wide.Number{5}.Power(13965), new(big.Int).Exp(big.NewInt(5), big.NewInt(13965), nil))
 }
 
 // integers returns integers of both signs, 0 with both of them.
